@@ -1126,6 +1126,17 @@ func TestFixed(t *testing.T) {
 	}
 }
 
+// TestFixedOver has a cube whose sums fit, and fit no more with the movement
+// between them: Fix tells what P12.4 says, though P12.5 can't hold of it.
+func TestFixedOver(t *testing.T) {
+	w := usualWorld(t)
+	lines := "A bank F00 - 0 -9223372036854775807\nA bank F15 - 0 50\nA bank F99 - 0 -9223372036854775767"
+	checkGap(t, w, cubeOf(t, lines), "A", "bank", "", -10, api.OK)
+	fixed := cubeOf(t, lines, "A bank F02 - 1 -10")
+	checkFix(t, w, cubeOf(t, lines), 10, fixed, api.OK)
+	checkGap(t, w, fixed, "A", "bank", "", 0, api.ErrOver)
+}
+
 // filter answers the facts that keep holds for.
 func filter(c fact.Cube, keep func(f fact.Fact) bool) fact.Cube {
 	var l fact.Cube
